@@ -23,14 +23,42 @@ func primes(yield func(prime uint64) bool) {
 	}
 }
 
-// isPrime reports whether an odd number is prime.
+// isPrime reports whether an odd number from 3 to 2^31 is prime. These bases are witnesses against all others below 3215031751 (Jaeschke); trying divisors would take longer than inverting a small matrix.
 func isPrime(n uint64) bool {
-	for divisor := uint64(3); divisor*divisor <= n; divisor += 2 {
-		if n%divisor == 0 {
+	for _, base := range [4]uint64{2, 3, 5, 7} {
+		if base%n != 0 && isWitness(base, n) {
 			return false
 		}
 	}
 	return true
+}
+
+// isWitness reports whether powers of base prove that an odd n below 2^32 is not prime (the test of Miller and Rabin): for a prime, the power n - 1 is 1, and only 1 and -1 have the square 1.
+func isWitness(base, n uint64) bool {
+	halvings := bits.TrailingZeros64(n - 1)
+	x := power(base, (n-1)>>halvings, n)
+	if x == 1 {
+		return false
+	}
+	for range halvings {
+		if x == n-1 {
+			return false
+		}
+		x = x * x % n
+	}
+	return true
+}
+
+// power returns a power of base modulo n, which is below 2^32.
+func power(base, exponent, n uint64) uint64 {
+	result := uint64(1)
+	for ; exponent > 0; exponent /= 2 {
+		if exponent%2 == 1 {
+			result = result * base % n
+		}
+		base = base * base % n
+	}
+	return result
 }
 
 // modulus computes with the numbers from 0 to prime - 1, modulo a prime number below 2^31.
